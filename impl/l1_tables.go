@@ -59,7 +59,7 @@ func (t table) width() int {
 
 // fits asks for the number of rows first, since there is no width without one.
 func (t table) fits() bool {
-	if !inRange(len(t), 1, SideMax) || !inRange(t.width(), 1, SideMax) {
+	if !isSide(len(t)) || !isSide(t.width()) {
 		return false
 	}
 	for _, row := range t.rows(t.allRows()) {
@@ -175,12 +175,20 @@ func chosen(row []int, columns int) []int {
 }
 
 func entriesIn(row []int) bool {
-	for _, entry := range row {
-		if !isEntry(entry) {
+	return allInRange(row, -EntryMax, EntryMax)
+}
+
+func allInRange(list []int, low int, high int) bool {
+	for _, x := range list {
+		if !inRange(x, low, high) {
 			return false
 		}
 	}
 	return true
+}
+
+func isSide(n int) bool {
+	return inRange(n, 1, SideMax)
 }
 
 func isEntry(x int) bool {
@@ -250,7 +258,7 @@ func TablePart(t [][]int, rows int, columns int) ([][]int, bool) {
 
 // TableUnit returns the square of n rows, n from 1 to SideMax, with 1 where row and column are the same and 0 otherwise, and true.
 func TableUnit(n int) ([][]int, bool) {
-	if !inRange(n, 1, SideMax) {
+	if !isSide(n) {
 		return nil, false
 	}
 	return unitTable(n).result()
